@@ -18,7 +18,7 @@ func soon(t *testing.T, x *eval.Index, s string, n int, from, to uint64) {
 	t.Helper()
 	begin := time.Now()
 	l, at, e := x.Ask(s)
-	if took := time.Since(begin); took > 30*time.Second {
+	if took := time.Since(begin); took > time.Minute {
 		t.Errorf("%.80s took %v", s, took)
 	}
 	if e != api.OK || at != 0 || len(l) != n || n > 0 && (l[0] != hd(from, 1) || l[n-1] != hd(to, 1)) {
